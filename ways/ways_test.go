@@ -21,6 +21,7 @@ type layer struct {
 // built are the layers that stand by now.
 var built = []layer{
 	{"runes", "", "range-string range-function label array"},
+	{"place", "runes", "range-string label range-function"},
 }
 
 // library is what a package may call of the library.
