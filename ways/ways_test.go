@@ -22,6 +22,7 @@ type layer struct {
 var built = []layer{
 	{"runes", "", "range-string range-function label array"},
 	{"place", "runes", "range-string label range-function"},
+	{"class", "runes", "range-string rune iota range-function"},
 }
 
 // library is what a package may call of the library.
