@@ -23,6 +23,7 @@ var built = []layer{
 	{"runes", "", "range-string range-function label array"},
 	{"place", "runes", "range-string label range-function"},
 	{"class", "runes", "range-string rune iota range-function"},
+	{"fold", "runes class", "range-string rune array array-compared range-function label"},
 }
 
 // library is what a package may call of the library.
