@@ -24,6 +24,7 @@ var built = []layer{
 	{"place", "runes", "range-string label range-function"},
 	{"class", "runes", "range-string rune iota range-function"},
 	{"fold", "runes class", "range-string rune array array-compared range-function label"},
+	{"cluster", "runes class", "range-function range-string label closure"},
 }
 
 // library is what a package may call of the library.
