@@ -25,6 +25,7 @@ var built = []layer{
 	{"class", "runes", "range-string rune iota range-function"},
 	{"fold", "runes class", "range-string rune array array-compared range-function label"},
 	{"cluster", "runes class", "range-function range-string label closure"},
+	{"pattern", "runes class", "label goto rune range-string iota range-function"},
 }
 
 // library is what a package may call of the library.
