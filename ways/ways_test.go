@@ -26,6 +26,7 @@ var built = []layer{
 	{"fold", "runes class", "range-string rune array array-compared range-function label"},
 	{"cluster", "runes class", "range-function range-string label closure"},
 	{"pattern", "runes class", "label goto rune range-string iota range-function"},
+	{"word", "runes class", "label goto iota range-function rune"},
 }
 
 // library is what a package may call of the library.
