@@ -27,6 +27,7 @@ var built = []layer{
 	{"cluster", "runes class", "range-function range-string label closure"},
 	{"pattern", "runes class", "label goto rune range-string iota range-function"},
 	{"word", "runes class", "label goto iota range-function rune"},
+	{"phone", "runes", "range-string rune array label range-function"},
 }
 
 // library is what a package may call of the library.
