@@ -28,6 +28,7 @@ var built = []layer{
 	{"pattern", "runes class", "label goto rune range-string iota range-function"},
 	{"word", "runes class", "label goto iota range-function rune"},
 	{"phone", "runes", "range-string rune array label range-function"},
+	{"rule", "runes class phone", "label goto range-string map method-value rune"},
 }
 
 // library is what a package may call of the library.
