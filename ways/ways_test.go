@@ -29,6 +29,7 @@ var built = []layer{
 	{"word", "runes class", "label goto iota range-function rune"},
 	{"phone", "runes", "range-string rune array label range-function"},
 	{"rule", "runes class phone", "label goto range-string map method-value rune"},
+	{"lexicon", "runes class fold word phone rule", "map range-function variadic iota label range-string"},
 }
 
 // library is what a package may call of the library.
