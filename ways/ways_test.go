@@ -30,6 +30,7 @@ var built = []layer{
 	{"phone", "runes", "range-string rune array label range-function"},
 	{"rule", "runes class phone", "label goto range-string map method-value rune"},
 	{"lexicon", "runes class fold word phone rule", "map range-function variadic iota label range-string"},
+	{"syllable", "phone", "closure label range-string rune iota"},
 }
 
 // library is what a package may call of the library.
