@@ -31,6 +31,7 @@ var built = []layer{
 	{"rule", "runes class phone", "label goto range-string map method-value rune"},
 	{"lexicon", "runes class fold word phone rule", "map range-function variadic iota label range-string"},
 	{"syllable", "phone", "closure label range-string rune iota"},
+	{"line", "word lexicon syllable", "range-function closure array struct-compared"},
 }
 
 // library is what a package may call of the library.
