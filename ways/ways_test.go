@@ -32,6 +32,7 @@ var built = []layer{
 	{"lexicon", "runes class fold word phone rule", "map range-function variadic iota label range-string"},
 	{"syllable", "phone", "closure label range-string rune iota"},
 	{"line", "word lexicon syllable", "range-function closure array struct-compared"},
+	{"metre", "", "label goto range-string range-function closure variadic"},
 }
 
 // library is what a package may call of the library.
