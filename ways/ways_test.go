@@ -33,6 +33,7 @@ var built = []layer{
 	{"syllable", "phone", "closure label range-string rune iota"},
 	{"line", "word lexicon syllable", "range-function closure array struct-compared"},
 	{"metre", "", "label goto range-string range-function closure variadic"},
+	{"scan", "line metre", "array struct-compared range-function closure label"},
 }
 
 // library is what a package may call of the library.
