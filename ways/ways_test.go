@@ -34,6 +34,7 @@ var built = []layer{
 	{"line", "word lexicon syllable", "range-function closure array struct-compared"},
 	{"metre", "", "label goto range-string range-function closure variadic"},
 	{"scan", "line metre", "array struct-compared range-function closure label"},
+	{"rhyme", "phone syllable", "range-function iota fallthrough label"},
 }
 
 // library is what a package may call of the library.
