@@ -35,6 +35,7 @@ var built = []layer{
 	{"metre", "", "label goto range-string range-function closure variadic"},
 	{"scan", "line metre", "array struct-compared range-function closure label"},
 	{"rhyme", "phone syllable", "range-function iota fallthrough label"},
+	{"scheme", "", "label goto range-string array range-function closure"},
 }
 
 // library is what a package may call of the library.
