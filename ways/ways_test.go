@@ -36,6 +36,7 @@ var built = []layer{
 	{"scan", "line metre", "array struct-compared range-function closure label"},
 	{"rhyme", "phone syllable", "range-function iota fallthrough label"},
 	{"scheme", "", "label goto range-string array range-function closure"},
+	{"poem", "runes place word", "range-function label range-string embedding promoted"},
 }
 
 // library is what a package may call of the library.
