@@ -37,6 +37,7 @@ var built = []layer{
 	{"rhyme", "phone syllable", "range-function iota fallthrough label"},
 	{"scheme", "", "label goto range-string array range-function closure"},
 	{"poem", "runes place word", "range-function label range-string embedding promoted"},
+	{"mould", "metre scheme", "label goto method-value range-function range-string"},
 }
 
 // library is what a package may call of the library.
