@@ -38,6 +38,7 @@ var built = []layer{
 	{"scheme", "", "label goto range-string array range-function closure"},
 	{"poem", "runes place word", "range-function label range-string embedding promoted"},
 	{"mould", "metre scheme", "label goto method-value range-function range-string"},
+	{"check", "fold word lexicon syllable line metre scan rhyme scheme poem mould", "method-value range-function range-string closure"},
 }
 
 // library is what a package may call of the library.
