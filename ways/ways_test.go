@@ -39,6 +39,7 @@ var built = []layer{
 	{"poem", "runes place word", "range-function label range-string embedding promoted"},
 	{"mould", "metre scheme", "label goto method-value range-function range-string"},
 	{"check", "fold word lexicon syllable line metre scan rhyme scheme poem mould", "method-value range-function range-string closure"},
+	{"count", "runes word poem", "float map range-map range-function"},
 }
 
 // library is what a package may call of the library.
