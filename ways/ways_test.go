@@ -40,6 +40,7 @@ var built = []layer{
 	{"mould", "metre scheme", "label goto method-value range-function range-string"},
 	{"check", "fold word lexicon syllable line metre scan rhyme scheme poem mould", "method-value range-function range-string closure"},
 	{"count", "runes word poem", "float map range-map range-function"},
+	{"concord", "runes fold word poem", "range-function map label struct-compared"},
 }
 
 // library is what a package may call of the library.
