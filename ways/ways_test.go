@@ -41,6 +41,7 @@ var built = []layer{
 	{"check", "fold word lexicon syllable line metre scan rhyme scheme poem mould", "method-value range-function range-string closure"},
 	{"count", "runes word poem", "float map range-map range-function"},
 	{"concord", "runes fold word poem", "range-function map label struct-compared"},
+	{"collate", "runes class fold", "map range-string range-function method-value label"},
 }
 
 // library is what a package may call of the library.
