@@ -42,6 +42,7 @@ var built = []layer{
 	{"count", "runes word poem", "float map range-map range-function"},
 	{"concord", "runes fold word poem", "range-function map label struct-compared"},
 	{"collate", "runes class fold", "map range-string range-function method-value label"},
+	{"find", "runes fold phone lexicon concord", "array label interface type-switch goto range-string interface-call"},
 }
 
 // library is what a package may call of the library.
