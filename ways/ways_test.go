@@ -43,6 +43,7 @@ var built = []layer{
 	{"concord", "runes fold word poem", "range-function map label struct-compared"},
 	{"collate", "runes class fold", "map range-string range-function method-value label"},
 	{"find", "runes fold phone lexicon concord", "array label interface type-switch goto range-string interface-call"},
+	{"vocab", "class fold lexicon syllable rhyme collate", "closure range-function"},
 }
 
 // library is what a package may call of the library.
