@@ -44,6 +44,7 @@ var built = []layer{
 	{"collate", "runes class fold", "map range-string range-function method-value label"},
 	{"find", "runes fold phone lexicon concord", "array label interface type-switch goto range-string interface-call"},
 	{"vocab", "class fold lexicon syllable rhyme collate", "closure range-function"},
+	{"fill", "class lexicon line scan rhyme scheme poem mould check vocab", "closure range-function method-value label range-string"},
 }
 
 // library is what a package may call of the library.
