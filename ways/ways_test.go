@@ -45,6 +45,7 @@ var built = []layer{
 	{"find", "runes fold phone lexicon concord", "array label interface type-switch goto range-string interface-call"},
 	{"vocab", "class fold lexicon syllable rhyme collate", "closure range-function"},
 	{"fill", "class lexicon line scan rhyme scheme poem mould check vocab", "closure range-function method-value label range-string"},
+	{"rope", "runes place", "interface type-switch range-function array interface-call"},
 }
 
 // library is what a package may call of the library.
