@@ -46,6 +46,7 @@ var built = []layer{
 	{"vocab", "class fold lexicon syllable rhyme collate", "closure range-function"},
 	{"fill", "class lexicon line scan rhyme scheme poem mould check vocab", "closure range-function method-value label range-string"},
 	{"rope", "runes place", "interface type-switch range-function array interface-call"},
+	{"edit", "runes rope", "label range-string embedding promoted closure"},
 }
 
 // library is what a package may call of the library.
