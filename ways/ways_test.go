@@ -47,6 +47,7 @@ var built = []layer{
 	{"fill", "class lexicon line scan rhyme scheme poem mould check vocab", "closure range-function method-value label range-string"},
 	{"rope", "runes place", "interface type-switch range-function array interface-call"},
 	{"edit", "runes rope", "label range-string embedding promoted closure"},
+	{"draft", "word edit", "array map range-function label"},
 }
 
 // library is what a package may call of the library.
