@@ -48,6 +48,7 @@ var built = []layer{
 	{"rope", "runes place", "interface type-switch range-function array interface-call"},
 	{"edit", "runes rope", "label range-string embedding promoted closure"},
 	{"draft", "word edit", "array map range-function label"},
+	{"witness", "fold word poem", "interface type-switch range-function closure range-string interface-call"},
 }
 
 // library is what a package may call of the library.
