@@ -49,6 +49,7 @@ var built = []layer{
 	{"edit", "runes rope", "label range-string embedding promoted closure"},
 	{"draft", "word edit", "array map range-function label"},
 	{"witness", "fold word poem", "interface type-switch range-function closure range-string interface-call"},
+	{"page", "cluster poem", "label range-function struct-compared"},
 }
 
 // library is what a package may call of the library.
