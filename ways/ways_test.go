@@ -50,6 +50,7 @@ var built = []layer{
 	{"draft", "word edit", "array map range-function label"},
 	{"witness", "fold word poem", "interface type-switch range-function closure range-string interface-call"},
 	{"page", "cluster poem", "label range-function struct-compared"},
+	{"chant", "lexicon line metre scan poem check", "float go channel send receive close select waitgroup method-value"},
 }
 
 // library is what a package may call of the library.
