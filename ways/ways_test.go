@@ -51,6 +51,7 @@ var built = []layer{
 	{"witness", "fold word poem", "interface type-switch range-function closure range-string interface-call"},
 	{"page", "cluster poem", "label range-function struct-compared"},
 	{"chant", "lexicon line metre scan poem check", "float go channel send receive close select waitgroup method-value"},
+	{"house", "word rule lexicon syllable line metre scan rhyme scheme poem mould check count concord collate find vocab fill rope edit draft witness page chant", "map method-expression function-field panic defer recover assertion range-string variadic"},
 }
 
 // library is what a package may call of the library.
