@@ -306,7 +306,7 @@ func TestRun(t *testing.T) {
 func TestAnswers(t *testing.T) {
 	line := strings.Repeat("\x01", 1000)
 	script := "poem a\n" + strings.Repeat(line+"\n", 60) + ".\n"
-	one := len(house.Quote(strings.Repeat(line+"\n", 60)))+1
+	one := len(house.Quote(strings.Repeat(line+"\n", 60))) + 1
 	n := (api.MaxAnswers-len("60 1\n"))/one + 1
 	script += strings.Repeat("show a\n", n)
 	got, spot := house.Run(script)
